@@ -29,6 +29,22 @@ func Of(texts ...string) []api.Version {
 	return l
 }
 
+// Texts answers what Of makes these versions of.
+func Texts(l []api.Version) []string {
+	var texts []string
+	for _, v := range l {
+		text, e := record.Write(v.Record)
+		if e != api.OK {
+			text = "no record"
+		}
+		if v.Gone {
+			text = "-" + strings.TrimSuffix(text, ";;")
+		}
+		texts = append(texts, text)
+	}
+	return texts
+}
+
 // Whole answers a store that has room for no version more, each of another
 // name, and each with as many fields and refs as there may be.
 func Whole() []api.Version {
@@ -86,7 +102,7 @@ func Step(l []api.Version, pick func(n int) int) []api.Version {
 	if pick(3) == 0 {
 		next, e = store.Cut(l, id, cats)
 	} else {
-		next, e = store.Put(l, aRecord(id, cats, pick))
+		next, e = store.Put(l, Record(id, cats, pick))
 	}
 	if e != api.OK {
 		return l
@@ -110,7 +126,9 @@ func Fields() []api.Field {
 	return append(l, api.Field{Key: "none", Value: "v"})
 }
 
-func aRecord(id string, cats int, pick func(n int) int) api.Record {
+// Record answers a record with some of Fields, and with some of Names as refs;
+// pick answers one of the numbers below n.
+func Record(id string, cats int, pick func(n int) int) api.Record {
 	r := api.Record{Id: id, Cats: cats}
 	for _, key := range []string{"0", "k", "m"} {
 		if pick(2) == 0 {
